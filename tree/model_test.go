@@ -244,6 +244,10 @@ func (s *modelStep) turn(names []string, level int, l []api.Entry) {
 			s.do(nil, e)
 			return
 		}
+		if s.tree.nextFile() > end {
+			s.do(nil, api.ErrMany)
+			return
+		}
 		changes = append(changes, api.Change{Key: modelName(level, s.tree.nextFile()), Value: string(b)})
 	}
 	s.do(files.Turn(s.disk, changes))

@@ -98,7 +98,11 @@ func (t tree) newTable(level int, l []api.Entry) (api.Change, error) {
 	if e != api.OK {
 		return api.Change{}, fault{"table", e}
 	}
-	return api.Change{Key: nameOf(level, t.nextFile()), Value: string(b)}, nil
+	n, err := t.nextFile()
+	if err != nil {
+		return api.Change{}, err
+	}
+	return api.Change{Key: nameOf(level, n), Value: string(b)}, nil
 }
 
 func (t tree) turn(l []api.Change) ([]api.Act, error) {
@@ -109,13 +113,16 @@ func (t tree) turn(l []api.Change) ([]api.Act, error) {
 	return acts, nil
 }
 
-// nextFile is the number of the next table's file.
-func (t tree) nextFile() int {
+// nextFile is the number of the next table's file. Behind the greatest that may be there is none: with such a file the disk would be no tree any more.
+func (t tree) nextFile() (int, error) {
 	most := 0
 	for _, x := range t.leaves {
 		most = max(most, x.number)
 	}
-	return most + 1
+	if most == maxNumber {
+		return 0, fault{"number of the next file", api.ErrMany}
+	}
+	return most + 1, nil
 }
 
 func put(d api.Disk, l []api.Change, keep int) ([]api.Act, int, error) {

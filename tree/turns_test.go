@@ -487,7 +487,7 @@ func TestTurnsByModel(t *testing.T) {
 	r := rand.New(rand.NewSource(125))
 	count := map[api.Errno]int{}
 	var lasts, allOut, flushes, presses int
-	for round := range 400 {
+	for round := range 500 {
 		m, keys := drawTree(r)
 		if r.Intn(2) == 0 {
 			m = withLog(m, r.Intn(3)+max(0, len(m.records)))
@@ -496,6 +496,9 @@ func TestTurnsByModel(t *testing.T) {
 			}
 		}
 		m = withBallast(r, m)
+		if r.Intn(5) == 0 {
+			m = raised(m, r.Intn(3))
+		}
 		d := m.on(t, max(96, 80+m.sectors(t)+r.Intn(20)))
 		if r.Intn(3) == 0 {
 			d = waiting(d)
@@ -534,9 +537,148 @@ func TestTurnsByModel(t *testing.T) {
 			t.Fatalf("round %d: %+v", round, m)
 		}
 	}
-	if count[api.OK] < 500 || count[api.ErrSpace] < 5 || lasts < 100 || allOut < 10 || flushes < 500 || presses < 10 {
+	if count[api.OK] < 500 || count[api.ErrSpace] < 5 || count[api.ErrMany] < 20 || lasts < 100 || allOut < 10 || flushes < 500 || presses < 10 {
 		t.Errorf("%v, %d times last, %d times all out, %d acts of flushes, %d presses: too few to tell", count, lasts, allOut, flushes, presses)
 	}
+}
+
+// raised is a tree whose files have greater numbers, so that so many are left behind the greatest.
+func raised(m modelTree, left int) modelTree {
+	l := slices.Clone(m.leaves)
+	for i := range l {
+		l[i].number += end - left + 1 - m.nextFile()
+	}
+	return modelTree{l, m.records}
+}
+
+// Behind the greatest number of a file there is none for one more table. Whoever makes none needs none.
+func TestNoNumberLeft(t *testing.T) {
+	a1, b2 := at("a", "x", 1), at("b", "y", 2)
+	for level := range 4 {
+		last := of(modelName(level, end), tableOf(t, a1))
+		// A flush: with something new; with nothing; with records alone that count for nothing.
+		wantFlush(t, laid(t, 100, changes(last), records(2)), nil, api.ErrMany)
+		wantFlush(t, laid(t, 100, changes(last), records(1, 2)), nil, api.ErrMany)
+		wantFlush(t, laid(t, 100, changes(last), nil), nil, api.OK)
+		d := laid(t, 100, changes(last), records(1))
+		acts, x := cleared(t, d)
+		wantFlush(t, d, acts, api.OK)
+		wantOpen(t, x, 1, api.OK)
+		// A press, of the table that has it, and of others: it is the greatest of all that counts, though it would go.
+		for keep := range 2 {
+			wantPress(t, d, level, keep, nil, api.ErrMany)
+		}
+		for other := range 4 {
+			d := laid(t, 100, changes(last, of(modelName(other, 1), tableOf(t, b2))), nil)
+			wantPress(t, d, other, 0, nil, api.ErrMany)
+			wantPress(t, d, other, 2, nil, api.ErrMany)
+			wantOpen(t, d, 2, api.OK)
+		}
+		// What Press asks first stays first.
+		wantPress(t, d, (level+1)%4, 0, nil, api.ErrNone)
+		wantPress(t, d, level, 2, nil, api.ErrArg)
+		wantPress(t, d, 4, 0, nil, api.ErrArg)
+	}
+	// One below it, one more table comes: the last one.
+	below := of(modelName(2, end-1), tableOf(t, a1))
+	d := laid(t, 100, changes(below), records(2))
+	first, x := turned(t, d, of("l0.2147483647", tableOf(t, at("r", "2", 2))))
+	acts, x := cleared(t, x)
+	wantFlush(t, d, slices.Concat(first, acts), api.OK)
+	wantOpen(t, x, 2, api.OK)
+	wantPress(t, x, 0, 0, nil, api.ErrMany)
+	wantPress(t, x, 2, 0, nil, api.ErrMany)
+	want, x := turned(t, d, away(below.Key), of("l3.2147483647", tableOf(t, a1)))
+	wantPress(t, d, 2, 0, want, api.OK)
+	wantOpen(t, x, 2, api.OK)
+	wantFlush(t, x, nil, api.ErrMany)
+	wantPress(t, x, 3, 0, nil, api.ErrMany)
+}
+
+// A press by which no entry is left makes no table.
+func TestPressOfAllWithNoNumberLeft(t *testing.T) {
+	d := laid(t, 100, changes(of(modelName(2, end), tableOf(t, goneAt("a", 1), goneAt("b", 2))), of("l3.2", tableOf(t, at("a", "", 0), at("b", "", 1))), of("l0.3", tableOf(t, at("c", "", 3)))), nil)
+	want, x := turned(t, d, away(modelName(2, end)), away("l3.2"))
+	for _, keep := range []int{2, 3} {
+		wantPress(t, d, 2, keep, want, api.OK)
+	}
+	wantOpen(t, x, 3, api.OK)
+	wantNames(t, x, "l0.3")
+	wantPress(t, d, 2, 1, nil, api.ErrMany)
+	// The greatest number went with it: the next one is behind the greatest that is left.
+	want, _ = turned(t, x, away("l0.3"), of("l1.4", tableOf(t, at("c", "", 3))))
+	wantPress(t, x, 0, 0, want, api.OK)
+	// It may also stay elsewhere.
+	d = laid(t, 100, changes(of("l3.2", tableOf(t, goneAt("a", 1))), of(modelName(0, end), tableOf(t, at("c", "", 3)))), nil)
+	want, x = turned(t, d, away("l3.2"))
+	wantPress(t, d, 3, 3, want, api.OK)
+	wantOpen(t, x, 3, api.OK)
+	wantPress(t, d, 3, 0, nil, api.ErrMany)
+}
+
+// Where the new table has no number, it is not asked whether it has room; and what goes ahead of the number stays ahead.
+func TestNoNumberLeftAmongErrors(t *testing.T) {
+	full := raised(many(8, 8, 8, 8), 0)
+	full.records = []modelRecord{{33, changes(of("r", "33"))}}
+	wantFlush(t, full.on(t, 300), nil, api.ErrMany)
+	wantFlush(t, raised(full, 1).on(t, 300), nil, api.ErrFull)
+	text := tableOf(t, at("a", chars(1000, 'v'), 1))
+	wantPress(t, laid(t, 96, changes(of(modelName(0, end), text)), nil), 0, 0, nil, api.ErrMany)
+	wantPress(t, laid(t, 96, changes(of(modelName(0, end-1), text)), nil), 0, 0, nil, api.ErrSpace)
+	d := lastEpoch(t, laid(t, 100, changes(of(modelName(0, end), tableOf(t, at("a", "", 1)))), records(1, 2)))
+	wantFlush(t, d, nil, api.ErrMany)
+	d = lastEpoch(t, laid(t, 100, changes(of(modelName(0, end), tableOf(t, at("a", "", 1)))), records(1)))
+	wantFlush(t, d, nil, api.ErrSpace)
+}
+
+// A put needs numbers only if the log has no room: one for the flush, and one for each press by which an entry is left.
+func TestPutWithFewNumbersLeft(t *testing.T) {
+	l := changes(of("n", "new"))
+	for _, c := range []struct {
+		levels []int
+		needs  int
+	}{
+		{[]int{1, 0, 0, 0}, 1}, {[]int{0, 0, 0, 1}, 1}, {[]int{3, 0, 0, 0}, 2}, {[]int{3, 3, 3, 3}, 2}, {[]int{2, 4, 0, 0}, 2}, {[]int{3, 0, 4, 0}, 3}, {[]int{2, 4, 3, 0}, 2},
+	} {
+		for left := range c.needs + 2 {
+			m := raised(withLog(many(c.levels...), 0), left)
+			d, n := m.on(t, 400), m.number()
+			s := modelStep{disk: d, tree: m}
+			if s.put(l, n); s.e == api.OK != (left >= c.needs) {
+				t.Fatalf("%v, %d numbers left: error %d", c.levels, left, s.e)
+			}
+			if left < c.needs {
+				wantPut(t, d, l, n, nil, 0, api.ErrMany)
+				continue
+			}
+			wantPut(t, d, l, n, s.acts, n+1, api.OK)
+			wantTree(t, s)
+		}
+		// With room in the log there is none that a put needs.
+		m := raised(withLog(many(c.levels...), 1), 0)
+		d, n := m.on(t, 400), m.number()
+		want, x := withRecord(t, d, n+1, l...)
+		wantPut(t, d, l, 0, want, n+1, api.OK)
+		wantOpen(t, x, n+1, api.OK)
+	}
+	// Puts, one behind the other, till the log is full: all of them stay.
+	d := laid(t, 200, changes(of(modelName(0, end), tableOf(t, at("a", "x", 1)))), nil)
+	for n := 2; ; n++ {
+		acts, got, e := Put(d, changes(of("b", chars(1000, 'v'))), 0)
+		if e != api.OK {
+			if n < 8 || e != api.ErrMany || len(acts) != 0 || got != 0 {
+				t.Errorf("put %d: %d acts, %d, error %d", n, len(acts), got, e)
+			}
+			break
+		}
+		d = done(t, d, acts, e)
+		wantOpen(t, d, n, api.OK)
+	}
+	// What Put asks first stays first.
+	d = raised(withLog(many(1, 0, 0, 0), 0), 0).on(t, 200)
+	wantPut(t, d, nil, 0, nil, 0, api.ErrNone)
+	wantPut(t, d, l, 99, nil, 0, api.ErrArg)
+	wantPut(t, d, changes(of("", "")), 99, nil, 0, api.ErrKey)
 }
 
 // withBallast is a tree, some of them with an old entry that needs many sectors.
