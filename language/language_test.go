@@ -35,10 +35,10 @@ var layers = []string{
 	"guard", "model", "engine", "roles", "pass", "clock", "work", "state", "law", "deed", "parcel", "wire", "talk", "house", "tower", "tale",
 }
 
-// calls has for each layer, by its number, those that it may call.
+// calls has for each layer, by its number, those that it may call (layer 19 also 16, as its chapter says).
 var calls = map[int][]int{
 	4: {1, 2, 3}, 5: {1, 2}, 6: {1}, 7: {1}, 8: {1}, 9: {1, 7, 8}, 10: {8}, 11: {8, 10}, 12: {1, 2, 4, 5, 8, 9, 10, 11}, 13: {2, 12},
-	15: {1, 14}, 17: {16}, 18: {16, 17}, 19: {17, 18}, 21: {1, 14}, 24: {15, 18, 19, 20, 21, 22, 23}, 25: {24}, 26: {16, 25},
+	15: {1, 14}, 17: {16}, 18: {16, 17}, 19: {16, 17, 18}, 21: {1, 14}, 24: {15, 18, 19, 20, 21, 22, 23}, 25: {24}, 26: {16, 25},
 	27: {1, 6, 24}, 29: {26, 28}, 30: {25, 26, 29}, 31: {2, 12, 13, 27, 30}, 32: {31},
 }
 
